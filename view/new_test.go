@@ -119,9 +119,34 @@ func TestP1802Primary(t *testing.T) {
 	if got := view.Primary(1<<40, 7); got != 2 {
 		t.Error("of the last View", got)
 	}
-	for _, x := range [][2]int{{0, 0}, {5, 0}, {5, -1}, {5, -3}, {-1, 3}, {-2, 3}, {-7, 0}, {math.MinInt, -1}, {math.MinInt, math.MinInt}, {math.MaxInt, 0}} {
-		if got := view.Primary(x[0], x[1]); got != 0 {
-			t.Errorf("Primary(%d, %d): %d", x[0], x[1], got)
+	for _, n := range []int{0, -1, -3, math.MinInt} {
+		for _, v := range []int{0, 5, -1, -7, math.MinInt, math.MaxInt} {
+			if got := view.Primary(v, n); got != 0 {
+				t.Errorf("Primary(%d, %d), of no replicas: %d", v, n, got)
+			}
+		}
+	}
+}
+
+// TestP1802PrimaryBelow: below 0, too, views lead round and round: each is the primary's
+// that the view n above it has.
+func TestP1802PrimaryBelow(t *testing.T) {
+	for n := 1; n < 10; n++ {
+		for v := -1; v > -50; v-- {
+			want := (v + 50*n) % n
+			if got := view.Primary(v, n); got < 0 || got >= n || got != want || got != view.Primary(v+n, n) {
+				t.Errorf("Primary(%d, %d): %d, not %d", v, n, got, want)
+			}
+		}
+	}
+	for _, x := range [][3]int{
+		{-1, 2, 1}, {-1, 3, 2}, {-2, 3, 1}, {-3, 3, 0}, {-7, 5, 3}, {-1, 1, 0},
+		{math.MinInt, 1, 0}, {math.MinInt, 2, 0}, {math.MinInt, 3, 1}, {math.MinInt, 7, 6},
+		{-1, math.MaxInt, math.MaxInt - 1}, {math.MinInt, math.MaxInt, math.MaxInt - 1},
+		{-math.MaxInt, math.MaxInt, 0}, {math.MaxInt, math.MaxInt, 0}, {1 << 62, 1<<62 + 1, 1 << 62},
+	} {
+		if got := view.Primary(x[0], x[1]); got != x[2] {
+			t.Errorf("Primary(%d, %d): %d, not %d", x[0], x[1], got, x[2])
 		}
 	}
 }
